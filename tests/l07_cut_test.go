@@ -344,17 +344,23 @@ func TestPartsOfCutsBeginAndEndWithDifferentLetters(t *testing.T) {
 	}
 }
 
-func TestCutsOfOtherTextsAreRejected(t *testing.T) {
+// pairsOfOtherTexts returns pairs of texts of which the first one, or both, are no strips.
+func pairsOfOtherTexts() [][2]string {
 	long := strings.Repeat("d", maxSteps)
-	texts := []string{"", "d", "f", "dd", "ff", "x", "df ", " df", "dF", "Df", "d\nf", "dxf", "dfé", "\u0164f", "d\x00f", "dfx", "ddffx", long, long + "df", long + long + "f", strings.Repeat("f", maxSteps+1) + "d", strings.Repeat("df", maxSteps+1), strings.Repeat("df", 100000)}
+	texts := []string{"", "d", "f", "dd", "ff", "x", "df ", " df", "dF", "Df", "d\nf", "dxf", "dfé", "\u0164f", "d\x00f", "dfx", "ddffx", long, long + "df", "fd" + long, long + long + "f", strings.Repeat("f", maxSteps+1) + "d", "d" + strings.Repeat("f", maxSteps+1), strings.Repeat("df", maxSteps+1), strings.Repeat("df", 100000)}
+	var pairs [][2]string
 	for _, s := range texts {
-		for _, u := range append([]string{"df", "fd", "dff", "ddff", "ddf", long + "f", strings.Repeat("df", maxSteps)}, texts...) {
-			checkNoCuts(t, s, u)
+		for _, u := range append([]string{"df", "fd", "dff", "ddff", "ddf", "ffd", long + "f", "f" + long, strings.Repeat("df", maxSteps)}, texts...) {
+			pairs = append(pairs, [2]string{s, u})
 		}
 	}
+	return pairs
 }
 
-func TestCutsOfStripsOfDifferentFramesAreRejected(t *testing.T) {
+// pairsOfOtherFrames returns pairs of strips of different frames.
+func pairsOfOtherFrames() [][2]string {
+	// The first ones have the same length, and in the next ones one strip is a part of the other one.
+	pairs := [][2]string{{"ddf", "dff"}, {"dfdf", "dfff"}, {"ffdddd", "ffffdd"}, {"df", "dfd"}, {"fd", "fdf"}, {"df", "dfdf"}}
 	var strips []string
 	for down := 1; down <= maxSteps; down++ {
 		for forward := 1; forward <= maxSteps; forward++ {
@@ -364,14 +370,23 @@ func TestCutsOfStripsOfDifferentFramesAreRejected(t *testing.T) {
 	for _, s := range strips {
 		for _, u := range strips {
 			if impl.DownOf(s) != impl.DownOf(u) || impl.ForwardOf(s) != impl.ForwardOf(u) {
-				checkNoCuts(t, s, u)
+				pairs = append(pairs, [2]string{s, u})
 			}
 		}
 	}
-	checkNoCuts(t, "ddf", "dff")
-	checkNoCuts(t, "dfdf", "dfff")
-	checkNoCuts(t, "df", "dfd")
-	checkNoCuts(t, "df", "dfdf")
+	return pairs
+}
+
+func TestCutsOfOtherTextsAreRejected(t *testing.T) {
+	for _, pair := range pairsOfOtherTexts() {
+		checkNoCuts(t, pair[0], pair[1])
+	}
+}
+
+func TestCutsOfStripsOfDifferentFramesAreRejected(t *testing.T) {
+	for _, pair := range pairsOfOtherFrames() {
+		checkNoCuts(t, pair[0], pair[1])
+	}
 }
 
 func TestLengthsOfAllSmallCards(t *testing.T) {
