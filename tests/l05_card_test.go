@@ -191,6 +191,56 @@ func mixedCard(down int, forward int, n int) impl.Card {
 	return c
 }
 
+// smallInvalidCards returns the cards of up to three short texts and of frames up to 2 that are not valid.
+func smallInvalidCards() []impl.Card {
+	var cards []impl.Card
+	for _, strips := range listsOf([]string{"", "d", "df", "fd", "dff"}, 3) {
+		for down := range 3 {
+			for forward := range 3 {
+				if c := cardOf(down, forward, strips...); !isGoodCard(c) {
+					cards = append(cards, c)
+				}
+			}
+		}
+	}
+	return cards
+}
+
+// extremeInvalidCards returns cards that are just outside of a limit or far outside.
+func extremeInvalidCards() []impl.Card {
+	d, f := strings.Repeat("d", maxSteps), strings.Repeat("f", maxSteps)
+	cards := []impl.Card{
+		{}, {Down: 1, Forward: 1}, {Strips: []string{"df"}}, {Strips: []string{"df", "fd"}}, {Down: 1, Strips: []string{"d"}}, {Forward: 1, Strips: []string{"f"}}, {Strips: []string{""}},
+		cardOf(maxSteps+1, 1, d+"df"), cardOf(1, maxSteps+1, "d"+f+"f"), cardOf(maxSteps+1, maxSteps, d+f), cardOf(maxSteps, maxSteps, d+f+"f"), cardOf(0, maxSteps, f), cardOf(maxSteps, 0, d),
+		cardOf(-1, -1, ""), cardOf(-1, -1, "df"), cardOf(2, 1, "dff"), cardOf(2, 1, "dff", "dff"), cardOf(1, 1, "df", "ddf"), cardOf(1, 1, "", "df"),
+		mixedCard(2, 2, maxStrips+1), cardOf(1, 1, strings.Repeat("df", 100000)), cardOf(1, 1, slices.Repeat([]string{"df"}, 10000)...),
+	}
+	for _, n := range append([]int{math.MinInt + 2}, greatNumbers...) {
+		cards = append(cards, cardOf(n, 1, "df", "fd"), cardOf(1, n, "df", "fd"), cardOf(n, n, "df", "fd"))
+	}
+	return cards
+}
+
+// cardsWithOneWrongStrip returns cards of every number of strips that are valid but for the strip at one index.
+func cardsWithOneWrongStrip() []impl.Card {
+	var cards []impl.Card
+	for n := 1; n <= maxStrips; n++ {
+		for k := range n {
+			for _, s := range []string{"", "df", "dff", "fdd", "dfdff", "fdfdf", "dddf", "DFDF", "dfdx", "dfd ", "dfé", "\u0164fdf"} {
+				c := mixedCard(2, 2, n)
+				c.Strips[k] = s
+				cards = append(cards, c)
+			}
+		}
+	}
+	return cards
+}
+
+// invalidCards returns all of these cards.
+func invalidCards() []impl.Card {
+	return slices.Concat(smallInvalidCards(), extremeInvalidCards(), cardsWithOneWrongStrip())
+}
+
 func TestCardLimit(t *testing.T) {
 	if impl.MaxStrips != maxStrips {
 		t.Errorf("MaxStrips = %d", impl.MaxStrips)

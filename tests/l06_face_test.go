@@ -428,40 +428,7 @@ func TestGreatNumbersForTilesAndFaces(t *testing.T) {
 }
 
 func TestFacesOfInvalidCards(t *testing.T) {
-	checkNoFaces(t, impl.Card{})
-	checkNoFaces(t, impl.Card{Down: 1, Forward: 1})
-	checkNoFaces(t, impl.Card{Strips: []string{"df"}})
-	for _, strips := range listsOf([]string{"", "d", "df", "fd", "dff"}, 3) {
-		for down := range 3 {
-			for forward := range 3 {
-				if c := cardOf(down, forward, strips...); !isGoodCard(c) {
-					checkNoFaces(t, c)
-				}
-			}
-		}
-	}
-	d, f := strings.Repeat("d", maxSteps), strings.Repeat("f", maxSteps)
-	for _, c := range []impl.Card{
-		cardOf(maxSteps+1, 1, d+"df"), cardOf(1, maxSteps+1, "d"+f+"f"), cardOf(maxSteps+1, maxSteps, d+f), cardOf(maxSteps, maxSteps, d+f+"f"), cardOf(0, maxSteps, f), cardOf(maxSteps, 0, d),
-		cardOf(-1, -1, "df"), cardOf(-1, -1, ""), cardOf(2, 1, "dff"), cardOf(1, 1, strings.Repeat("df", 100000)), cardOf(1, 1, slices.Repeat([]string{"df"}, 10000)...),
-	} {
+	for _, c := range invalidCards() {
 		checkNoFaces(t, c)
-	}
-	for _, n := range greatNumbers {
-		checkNoFaces(t, cardOf(n, 1, "df", "df"))
-		checkNoFaces(t, cardOf(1, n, "df", "df"))
-		checkNoFaces(t, cardOf(n, n, "df", "df"))
-	}
-}
-
-func TestFacesNeedEveryStripToBeValid(t *testing.T) {
-	for n := 1; n <= maxStrips; n++ {
-		for k := range n {
-			for _, s := range []string{"", "df", "dff", "fdd", "dfdff", "fdfdf", "dddf", "DFDF", "dfdx", "dfd ", "dfé", "\u0164fdf"} {
-				c := mixedCard(2, 2, n)
-				c.Strips[k] = s
-				checkNoFaces(t, c)
-			}
-		}
 	}
 }

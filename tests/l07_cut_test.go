@@ -1,7 +1,6 @@
 package tests
 
 import (
-	"math"
 	"slices"
 	"strings"
 	"testing"
@@ -60,6 +59,24 @@ func wantArea(s string, u string) int {
 	return area
 }
 
+// overwriteApart writes to all memory of some lists, and expects that no two of them share any.
+func overwriteApart(t *testing.T, lists [][]int) {
+	t.Helper()
+	for i, list := range lists {
+		all := list[:cap(list)]
+		for j := range all {
+			all[j] = 1000 + i
+		}
+	}
+	for i, list := range lists {
+		for _, n := range list[:cap(list)] {
+			if n != 1000+i {
+				t.Fatalf("lists %d and %d of %d share memory", i, n-1000, len(lists))
+			}
+		}
+	}
+}
+
 // checkCutLists expects these cuts and parts of two strips, and that their lists share no memory.
 func checkCutLists(t *testing.T, s string, u string, cuts []int, runs [][]int) {
 	t.Helper()
@@ -71,20 +88,7 @@ func checkCutLists(t *testing.T, s string, u string, cuts []int, runs [][]int) {
 		t.Errorf("CutRuns(%.40q, %.40q) = %d, want %d", s, u, gotRuns, runs)
 	}
 	lists := append(slices.Clone(gotRuns[:cap(gotRuns)]), gotCuts, impl.CutsBetween(s, u))
-	lists = append(lists, impl.CutRuns(s, u)...)
-	for i, list := range lists {
-		all := list[:cap(list)]
-		for j := range all {
-			all[j] = 1000 + i
-		}
-	}
-	for i, list := range lists {
-		for _, n := range list[:cap(list)] {
-			if n != 1000+i {
-				t.Fatalf("lists of cuts of %q and %q share memory", s, u)
-			}
-		}
-	}
+	overwriteApart(t, append(lists, impl.CutRuns(s, u)...))
 }
 
 func checkArea(t *testing.T, s string, u string, want int) {
@@ -344,10 +348,16 @@ func TestPartsOfCutsBeginAndEndWithDifferentLetters(t *testing.T) {
 	}
 }
 
+// otherTexts returns texts that are no strips.
+func otherTexts() []string {
+	long := strings.Repeat("d", maxSteps)
+	return []string{"", "d", "f", "dd", "ff", "x", "df ", " df", "dF", "Df", "d\nf", "dxf", "dfé", "\u0164f", "d\x00f", "dfx", "ddffx", long, long + "df", "fd" + long, long + long + "f", strings.Repeat("f", maxSteps+1) + "d", "d" + strings.Repeat("f", maxSteps+1), strings.Repeat("df", maxSteps+1), strings.Repeat("df", 100000)}
+}
+
 // pairsOfOtherTexts returns pairs of texts of which the first one, or both, are no strips.
 func pairsOfOtherTexts() [][2]string {
 	long := strings.Repeat("d", maxSteps)
-	texts := []string{"", "d", "f", "dd", "ff", "x", "df ", " df", "dF", "Df", "d\nf", "dxf", "dfé", "\u0164f", "d\x00f", "dfx", "ddffx", long, long + "df", "fd" + long, long + long + "f", strings.Repeat("f", maxSteps+1) + "d", "d" + strings.Repeat("f", maxSteps+1), strings.Repeat("df", maxSteps+1), strings.Repeat("df", 100000)}
+	texts := otherTexts()
 	var pairs [][2]string
 	for _, s := range texts {
 		for _, u := range append([]string{"df", "fd", "dff", "ddff", "ddf", "ffd", long + "f", "f" + long, strings.Repeat("df", maxSteps)}, texts...) {
@@ -429,40 +439,7 @@ func TestLengthsOfSomeCards(t *testing.T) {
 }
 
 func TestLengthsOfInvalidCards(t *testing.T) {
-	checkLengths(t, impl.Card{}, -1, -1)
-	checkLengths(t, impl.Card{Down: 1, Forward: 1}, -1, -1)
-	checkLengths(t, impl.Card{Strips: []string{"df", "fd"}}, -1, -1)
-	for _, strips := range listsOf([]string{"", "d", "df", "fd", "dff"}, 3) {
-		for down := range 3 {
-			for forward := range 3 {
-				if c := cardOf(down, forward, strips...); !isGoodCard(c) {
-					checkLengths(t, c, -1, -1)
-				}
-			}
-		}
-	}
-	d, f := strings.Repeat("d", maxSteps), strings.Repeat("f", maxSteps)
-	for _, c := range []impl.Card{
-		cardOf(maxSteps+1, 1, d+"df"), cardOf(1, maxSteps+1, "d"+f+"f"), cardOf(0, maxSteps, f), cardOf(maxSteps, 0, d), cardOf(-1, -1, ""), cardOf(2, 1, "dff", "dff"),
-		cardOf(1, 1, strings.Repeat("df", 100000)), cardOf(1, 1, slices.Repeat([]string{"df"}, 10000)...),
-	} {
+	for _, c := range invalidCards() {
 		checkLengths(t, c, -1, -1)
-	}
-	for _, n := range append([]int{math.MinInt + 2}, greatNumbers...) {
-		checkLengths(t, cardOf(n, 1, "df", "fd"), -1, -1)
-		checkLengths(t, cardOf(1, n, "df", "fd"), -1, -1)
-		checkLengths(t, cardOf(n, n, "df", "fd"), -1, -1)
-	}
-}
-
-func TestLengthsNeedEveryStripToBeValid(t *testing.T) {
-	for n := 1; n <= maxStrips; n++ {
-		for k := range n {
-			for _, s := range []string{"", "df", "dff", "fdd", "dfdff", "dddf", "DFDF", "dfdx", "dfé", "\u0164fdf"} {
-				c := mixedCard(2, 2, n)
-				c.Strips[k] = s
-				checkLengths(t, c, -1, -1)
-			}
-		}
 	}
 }

@@ -105,15 +105,10 @@ func checkNoOrder(t *testing.T, s string, u string) {
 	checkOrderIs(t, s, u, false, false, "", "")
 }
 
-// roomOf returns the number of squares under a strip, as the area between it and the flat one.
-func roomOf(s string) int {
-	return impl.AreaBetween(s, impl.FlatStrip(impl.DownOf(s), impl.ForwardOf(s)))
-}
-
 // checkRooms expects that the rooms under both pairs are equal, and that what lies between both strips lies between the upper and the lower one.
 func checkRooms(t *testing.T, s string, u string) {
 	t.Helper()
-	upper, lower := impl.UpperOf(s, u), impl.LowerOf(s, u)
+	upper, lower, roomOf := impl.UpperOf(s, u), impl.LowerOf(s, u), impl.RoomUnder
 	if roomOf(upper) < 0 || roomOf(lower) < 0 || roomOf(upper)+roomOf(lower) != roomOf(s)+roomOf(u) {
 		t.Errorf("rooms %d and %d under %q and %q, but %d and %d under %q and %q", roomOf(s), roomOf(u), s, u, roomOf(upper), roomOf(lower), upper, lower)
 	}
@@ -333,9 +328,6 @@ func TestRoomsUnderBothPairsAreEqual(t *testing.T) {
 	for _, frame := range [][2]int{{1, 1}, {1, maxSteps}, {maxSteps, 1}, {2, 2}, {2, 3}, {3, 3}, {4, 3}, {2, 6}} {
 		strips := stripsOf(frame[0], frame[1])
 		for _, s := range strips {
-			if roomOf(s) != bits.OnesCount64(squaresUnder(s)) {
-				t.Fatalf("%d squares under %q", roomOf(s), s)
-			}
 			for _, u := range strips {
 				checkRooms(t, s, u)
 			}
@@ -365,6 +357,12 @@ func chooseOf(n int, k int) int {
 	return ways
 }
 
+// pairsAbove returns how many pairs of strips of a frame are above each other. Pairs of paths that do not cross are told by a determinant of numbers of paths (Lindström, Gessel and Viennot).
+func pairsAbove(down int, forward int) int {
+	n := down + forward
+	return chooseOf(n, down)*chooseOf(n, down) - chooseOf(n, down+1)*chooseOf(n, down-1)
+}
+
 func TestNumberOfStripsAboveEachOther(t *testing.T) {
 	for down := 1; down <= maxSteps; down++ {
 		for forward := 1; forward <= maxSteps && down+forward <= 9; forward++ {
@@ -380,9 +378,7 @@ func TestNumberOfStripsAboveEachOther(t *testing.T) {
 					}
 				}
 			}
-			// Pairs of paths that do not cross are told by a determinant of numbers of paths (Lindström, Gessel and Viennot).
-			n := down + forward
-			want := chooseOf(n, down)*chooseOf(n, down) - chooseOf(n, down+1)*chooseOf(n, down-1)
+			want := pairsAbove(down, forward)
 			if above != want || comparable != 2*want-len(strips) {
 				t.Errorf("%d down, %d forward: %d pairs above each other and %d that are comparable, want %d and %d", down, forward, above, comparable, want, 2*want-len(strips))
 			}
@@ -477,9 +473,7 @@ func checkCardRooms(t *testing.T, cards []impl.Card, others []impl.Card) {
 	rooms := [2]int{}
 	for i, list := range [][]impl.Card{cards, others} {
 		for _, c := range list {
-			for _, s := range c.Strips {
-				rooms[i] += roomOf(s)
-			}
+			rooms[i] += impl.VolumeOf(c)
 		}
 	}
 	if rooms[0] != rooms[1] {
@@ -666,15 +660,7 @@ func TestCardsOfDifferentNumbersOfStripsAreRejected(t *testing.T) {
 }
 
 func TestUpperAndLowerCardsOfInvalidCards(t *testing.T) {
-	d, f := strings.Repeat("d", maxSteps), strings.Repeat("f", maxSteps)
-	invalid := []impl.Card{
-		{}, {Down: 1, Forward: 1}, {Strips: []string{"df"}}, {Down: 1, Strips: []string{"d"}}, {Forward: 1, Strips: []string{"f"}}, {Strips: []string{""}},
-		cardOf(maxSteps+1, 1, d+"df"), cardOf(1, maxSteps+1, "d"+f+"f"), cardOf(0, maxSteps, f), cardOf(maxSteps, 0, d), cardOf(-1, -1, ""), cardOf(2, 1, "dff"), cardOf(1, 1, "df", "ddf"), cardOf(1, 1, "", "df"),
-		cardOf(1, 1, strings.Repeat("df", 100000)), cardOf(1, 1, slices.Repeat([]string{"df"}, maxStrips+1)...), cardOf(1, 1, slices.Repeat([]string{"df"}, 10000)...),
-	}
-	for _, n := range greatNumbers {
-		invalid = append(invalid, cardOf(n, 1, "df"), cardOf(1, n, "df"), cardOf(n, n, "df"))
-	}
+	invalid := extremeInvalidCards()
 	for _, b := range invalid {
 		for _, c := range invalid {
 			checkNoCards(t, b, c)
@@ -686,14 +672,8 @@ func TestUpperAndLowerCardsOfInvalidCards(t *testing.T) {
 }
 
 func TestUpperAndLowerCardsNeedEveryStripToBeValid(t *testing.T) {
-	for n := 1; n <= maxStrips; n++ {
-		for k := range n {
-			for _, s := range []string{"", "df", "dff", "fdd", "dfdff", "dddf", "DFDF", "dfdx", "dfé", "\u0164fdf"} {
-				c := mixedCard(2, 2, n)
-				c.Strips[k] = s
-				checkNoCards(t, c, mixedCard(2, 2, n))
-				checkNoCards(t, c, c)
-			}
-		}
+	for _, c := range cardsWithOneWrongStrip() {
+		checkNoCards(t, c, mixedCard(2, 2, len(c.Strips)))
+		checkNoCards(t, c, c)
 	}
 }
