@@ -71,6 +71,30 @@ func stripsOf(down int, forward int) []string {
 	return strips
 }
 
+// someStrips returns the first one of the strips of a frame, and every n-th one after it.
+func someStrips(down int, forward int, n int) []string {
+	var some []string
+	for i, s := range stripsOf(down, forward) {
+		if i%n == 0 {
+			some = append(some, s)
+		}
+	}
+	return some
+}
+
+// checkWords has each word of up to n letters checked as a strip or as another word.
+func checkWords(t *testing.T, n int, checkStrip func(t *testing.T, s string), checkOther func(t *testing.T, s string)) {
+	t.Helper()
+	for _, w := range allWords(n) {
+		down, forward := strings.Count(w, "d"), strings.Count(w, "f")
+		if down >= 1 && down <= maxSteps && forward >= 1 && forward <= maxSteps {
+			checkStrip(t, w)
+		} else {
+			checkOther(t, w)
+		}
+	}
+}
+
 func TestStripLimit(t *testing.T) {
 	if impl.MaxSteps != maxSteps {
 		t.Error("MaxSteps differs from the document")
@@ -81,14 +105,9 @@ func TestStripsHaveAllTheirStepsInSomeOrder(t *testing.T) {
 	checkStrip(t, "df", 1, 1)
 	checkStrip(t, "fd", 1, 1)
 	checkStrip(t, "dfdff", 2, 3)
-	for _, w := range allWords(10) {
-		down, forward := strings.Count(w, "d"), strings.Count(w, "f")
-		if down >= 1 && down <= maxSteps && forward >= 1 && forward <= maxSteps {
-			checkStrip(t, w, down, forward)
-		} else {
-			checkNoStrip(t, w)
-		}
-	}
+	checkWords(t, 10, func(t *testing.T, s string) {
+		checkStrip(t, s, strings.Count(s, "d"), strings.Count(s, "f"))
+	}, checkNoStrip)
 }
 
 func TestStripsAtTheGreatestFrame(t *testing.T) {

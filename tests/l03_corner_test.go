@@ -144,14 +144,7 @@ func TestCornersOfSmallStrips(t *testing.T) {
 }
 
 func TestCornersOfAllWords(t *testing.T) {
-	for _, w := range allWords(10) {
-		down, forward := strings.Count(w, "d"), strings.Count(w, "f")
-		if down >= 1 && down <= maxSteps && forward >= 1 && forward <= maxSteps {
-			checkCorners(t, w)
-		} else {
-			checkNoCorners(t, w)
-		}
-	}
+	checkWords(t, 10, checkCorners, checkNoCorners)
 }
 
 func TestCornersOfStripsOfTheGreatestFrame(t *testing.T) {

@@ -139,14 +139,7 @@ func nearlyHighStrips(down int, forward int) []string {
 }
 
 func TestPlacesOfAllShortWords(t *testing.T) {
-	for _, w := range allWords(9) {
-		down, forward := strings.Count(w, "d"), strings.Count(w, "f")
-		if down >= 1 && down <= maxSteps && forward >= 1 && forward <= maxSteps {
-			checkPlaces(t, w)
-		} else {
-			checkNoPlaces(t, w)
-		}
-	}
+	checkWords(t, 9, checkPlaces, checkNoPlaces)
 }
 
 func TestPlacesOfStripsOfTheGreatestFrame(t *testing.T) {

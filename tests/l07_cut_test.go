@@ -201,12 +201,7 @@ func TestCutsOfEveryFrame(t *testing.T) {
 }
 
 func TestCutsOfStripsOfTheGreatestFrame(t *testing.T) {
-	var some []string
-	for i, s := range stripsOf(maxSteps, maxSteps) {
-		if i%211 == 0 {
-			some = append(some, s)
-		}
-	}
+	some := someStrips(maxSteps, maxSteps, 211)
 	for _, s := range some {
 		for _, u := range some {
 			checkCuts(t, s, u)
@@ -226,11 +221,9 @@ func TestBetweenEqualStripsIsNoCut(t *testing.T) {
 			}
 		}
 	}
-	for i, s := range stripsOf(maxSteps, maxSteps) {
-		if i%7 == 0 {
-			// The copy is a string of its own.
-			checkCutsAre(t, s, strings.Clone(s), nil, 0)
-		}
+	for _, s := range someStrips(maxSteps, maxSteps, 7) {
+		// The copy is a string of its own.
+		checkCutsAre(t, s, strings.Clone(s), nil, 0)
 	}
 }
 

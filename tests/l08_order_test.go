@@ -200,12 +200,7 @@ func TestFlatAndHighStripsAgainstAllOthers(t *testing.T) {
 }
 
 func TestOrderOfStripsOfTheGreatestFrame(t *testing.T) {
-	var some []string
-	for i, s := range stripsOf(maxSteps, maxSteps) {
-		if i%131 == 0 {
-			some = append(some, s)
-		}
-	}
+	some := someStrips(maxSteps, maxSteps, 131)
 	for _, s := range some {
 		for _, u := range some {
 			checkOrder(t, s, u)

@@ -156,16 +156,13 @@ func allFrames() [][2]int {
 }
 
 func TestRoomsOfAllSmallStrips(t *testing.T) {
-	for _, s := range allWords(10) {
-		down, forward := strings.Count(s, "d"), strings.Count(s, "f")
-		if down == 0 || forward == 0 || down > maxSteps || forward > maxSteps {
-			checkRoomIs(t, s, -1)
-			checkAboveIs(t, s, 0)
-		} else {
-			checkRoom(t, s)
-			checkAboveIs(t, s, wantAbove(s))
-		}
-	}
+	checkWords(t, 10, func(t *testing.T, s string) {
+		checkRoom(t, s)
+		checkAboveIs(t, s, wantAbove(s))
+	}, func(t *testing.T, s string) {
+		checkRoomIs(t, s, -1)
+		checkAboveIs(t, s, 0)
+	})
 }
 
 func TestRoomsOfStripsOfGreatFrames(t *testing.T) {
