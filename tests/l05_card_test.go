@@ -11,24 +11,23 @@ import (
 
 const maxStrips = 10
 
-// edit is a function of the chapter that changes a card, with its other arguments.
+// edit is a function that changes a card, with its other arguments.
 type edit struct {
 	name string
-	k    int
-	s    string
+	args []any
 	run  func(c impl.Card) (impl.Card, bool)
 }
 
 func withEdit(k int, s string) edit {
-	return edit{"WithStrip", k, s, func(c impl.Card) (impl.Card, bool) { return impl.WithStrip(c, k, s) }}
+	return edit{"WithStrip", []any{k, s}, func(c impl.Card) (impl.Card, bool) { return impl.WithStrip(c, k, s) }}
 }
 
 func putEdit(k int, s string) edit {
-	return edit{"PutStrip", k, s, func(c impl.Card) (impl.Card, bool) { return impl.PutStrip(c, k, s) }}
+	return edit{"PutStrip", []any{k, s}, func(c impl.Card) (impl.Card, bool) { return impl.PutStrip(c, k, s) }}
 }
 
 func cutEdit(k int) edit {
-	return edit{"CutStrip", k, "", func(c impl.Card) (impl.Card, bool) { return impl.CutStrip(c, k) }}
+	return edit{"CutStrip", []any{k}, func(c impl.Card) (impl.Card, bool) { return impl.CutStrip(c, k) }}
 }
 
 func cardOf(down int, forward int, strips ...string) impl.Card {
@@ -68,20 +67,23 @@ func checkEdit(t *testing.T, e edit, c impl.Card, strips []string) {
 	t.Helper()
 	given, all := withSpare(c)
 	before := slices.Clone(all)
-	got, ok := e.run(given)
 	want := c
 	if strips != nil {
 		want.Strips = strips
 	}
-	if ok != (strips != nil) || !isEqualCard(got, want) {
-		t.Errorf("%s(%.80v, %d, %.40q) = %.80v, %v, want %.80v, %v", e.name, c, e.k, e.s, got, ok, want, strips != nil)
-	}
-	if !slices.Equal(all, before) {
-		t.Errorf("%s(%.80v, %d, %.40q) changed its card or the memory behind it to %.80q", e.name, c, e.k, e.s, all)
-	}
-	overwrite(got)
-	if !slices.Equal(all, before) {
-		t.Errorf("%s(%.80v, %d, %.40q) shares memory with its card", e.name, c, e.k, e.s)
+	// The result of the first round is overwritten, which the second one must not see.
+	for range 2 {
+		got, ok := e.run(given)
+		if ok != (strips != nil) || !isEqualCard(got, want) {
+			t.Errorf("%s(%.80v, %.40v) = %.80v, %v, want %.80v, %v", e.name, c, e.args, got, ok, want, strips != nil)
+		}
+		if !slices.Equal(all, before) {
+			t.Errorf("%s(%.80v, %.40v) changed its card or the memory behind it to %.80q", e.name, c, e.args, all)
+		}
+		overwrite(got)
+		if !slices.Equal(all, before) {
+			t.Errorf("%s(%.80v, %.40v) shares memory with its card", e.name, c, e.args)
+		}
 	}
 }
 
@@ -170,12 +172,12 @@ func checkPlain(t *testing.T, down int, forward int, n int) {
 	}
 }
 
-// listsOf returns all lists of up to n of the texts.
-func listsOf(texts []string, n int) [][]string {
-	lists := [][]string{nil}
+// listsOf returns all lists of up to n of the elements.
+func listsOf[E any](elements []E, n int) [][]E {
+	lists := [][]E{nil}
 	for i := 0; len(lists[i]) < n; i++ {
-		for _, s := range texts {
-			lists = append(lists, append(slices.Clone(lists[i]), s))
+		for _, e := range elements {
+			lists = append(lists, append(slices.Clone(lists[i]), e))
 		}
 	}
 	return lists
