@@ -38,6 +38,31 @@ func symmetricStrips(down int, forward int, n int) []string {
 	return strips
 }
 
+// smallCards returns all valid cards of small frames that have few strips.
+func smallCards() []impl.Card {
+	var cards []impl.Card
+	for _, frame := range [][3]int{{1, 1, 6}, {1, 2, 4}, {2, 1, 4}, {2, 2, 3}, {2, 3, 2}, {3, 2, 2}, {3, 3, 2}, {1, 5, 2}, {5, 1, 2}, {maxSteps, 1, 2}, {1, maxSteps, 2}} {
+		cards = append(cards, cardsOf(frame[0], frame[1], frame[2])...)
+	}
+	return cards
+}
+
+// cardsOutsideOfTheirFrames returns cards of all frames that have no strips, or strips of another frame.
+func cardsOutsideOfTheirFrames() []impl.Card {
+	var cards []impl.Card
+	for _, frame := range allFrames() {
+		down, forward := frame[0], frame[1]
+		flat, high := impl.FlatStrip(down, forward), impl.HighStrip(down, forward)
+		cards = append(cards, cardOf(down, forward), cardOf(-down, -forward, flat), cardOf(down, forward, flat, "", flat), cardOf(down, forward, high, flat+"f", high), cardOf(down+1, forward, high), cardOf(down, forward+1, high, high))
+		if down != forward {
+			otherFlat, otherHigh := impl.FlatStrip(forward, down), impl.HighStrip(forward, down)
+			// These would be valid if some of their strips, or the frame, were turned.
+			cards = append(cards, cardOf(forward, down, flat), cardOf(forward, down, high, flat, high), cardOf(down, forward, flat, otherFlat), cardOf(down, forward, otherHigh, high))
+		}
+	}
+	return cards
+}
+
 // differences counts the steps in which two strips of one length differ.
 func differences(s string, u string) int {
 	count := 0
@@ -356,10 +381,8 @@ func TestNumbersOutsideOfTheRangeHaveNoBalancedStrips(t *testing.T) {
 }
 
 func TestSidesOfAllSmallCards(t *testing.T) {
-	for _, frame := range [][3]int{{1, 1, 6}, {1, 2, 4}, {2, 1, 4}, {2, 2, 3}, {2, 3, 2}, {3, 2, 2}, {3, 3, 2}, {1, 5, 2}, {5, 1, 2}, {maxSteps, 1, 2}, {1, maxSteps, 2}} {
-		for _, c := range cardsOf(frame[0], frame[1], frame[2]) {
-			checkSides(t, c)
-		}
+	for _, c := range smallCards() {
+		checkSides(t, c)
 	}
 }
 
@@ -487,18 +510,9 @@ func TestCardsOfStripsAndTheirTurnedOnes(t *testing.T) {
 }
 
 func TestSidesOfInvalidCards(t *testing.T) {
-	cards := invalidCards()
+	cards := append(invalidCards(), cardsOutsideOfTheirFrames()...)
 	for n := maxStrips + 1; n <= maxStrips+3; n++ {
 		cards = append(cards, cardOf(1, 1, slices.Repeat([]string{"df"}, n)...), cardOf(2, 3, symmetricStrips(2, 3, n)...))
-	}
-	for _, frame := range allFrames() {
-		down, forward := frame[0], frame[1]
-		flat, high := impl.FlatStrip(down, forward), impl.HighStrip(down, forward)
-		cards = append(cards, cardOf(down, forward), cardOf(-down, -forward, flat), cardOf(down, forward, flat, "", flat), cardOf(down, forward, high, flat+"f", high), cardOf(down+1, forward, high), cardOf(down, forward+1, high, high))
-		if down != forward {
-			// These would be valid if they were turned.
-			cards = append(cards, cardOf(forward, down, flat), cardOf(forward, down, high, flat, high), cardOf(down, forward, flat, impl.TurnStrip(flat)), cardOf(down, forward, impl.TurnStrip(high), high))
-		}
 	}
 	for _, c := range cards {
 		checkNoSides(t, c)
