@@ -63,6 +63,15 @@ func cardsOutsideOfTheirFrames() []impl.Card {
 	return cards
 }
 
+// allInvalidCards returns these cards, the other invalid ones, and cards of too many strips.
+func allInvalidCards() []impl.Card {
+	cards := append(invalidCards(), cardsOutsideOfTheirFrames()...)
+	for n := maxStrips + 1; n <= maxStrips+3; n++ {
+		cards = append(cards, cardOf(1, 1, slices.Repeat([]string{"df"}, n)...), cardOf(2, 3, symmetricStrips(2, 3, n)...), mixedCard(2, 3, n))
+	}
+	return cards
+}
+
 // differences counts the steps in which two strips of one length differ.
 func differences(s string, u string) int {
 	count := 0
@@ -510,11 +519,7 @@ func TestCardsOfStripsAndTheirTurnedOnes(t *testing.T) {
 }
 
 func TestSidesOfInvalidCards(t *testing.T) {
-	cards := append(invalidCards(), cardsOutsideOfTheirFrames()...)
-	for n := maxStrips + 1; n <= maxStrips+3; n++ {
-		cards = append(cards, cardOf(1, 1, slices.Repeat([]string{"df"}, n)...), cardOf(2, 3, symmetricStrips(2, 3, n)...))
-	}
-	for _, c := range cards {
+	for _, c := range allInvalidCards() {
 		checkNoSides(t, c)
 	}
 }

@@ -58,6 +58,20 @@ func wantSteps(strips []string) int {
 	return count
 }
 
+// stripsOfEveryFrame returns all strips of small frames and some of the greater ones.
+func stripsOfEveryFrame() []string {
+	var strips []string
+	for _, frame := range allFrames() {
+		n := 1
+		if frame[0]+frame[1] > 10 {
+			n = 13
+		}
+		strips = append(strips, someStrips(frame[0], frame[1], n)...)
+		strips = append(strips, nearlyHighStrips(frame[0], frame[1])...)
+	}
+	return strips
+}
+
 func sumOf(numbers []int) int {
 	sum := 0
 	for _, n := range numbers {
@@ -157,30 +171,43 @@ func checkNotSeen(t *testing.T, s string) {
 	checkSeenIs(t, s, nil, nil)
 }
 
-// checkViewsAre expects these views of a card and this number of steps between its strips.
-func checkViewsAre(t *testing.T, c impl.Card, top [][]int, front [][]int, steps int) {
+// table is a function that returns a list for each strip of a card, and the lists that it should return.
+type table struct {
+	name string
+	run  func(c impl.Card) [][]int
+	want [][]int
+}
+
+// checkTables expects the lists of all tables of a card, each one in memory of its own.
+func checkTables(t *testing.T, c impl.Card, tables ...table) {
 	t.Helper()
 	checkLeft(t, c, func(c impl.Card) {
 		// The lists of the first round are overwritten, which the second one must not see.
 		for range 2 {
-			gotTop, gotFront := impl.TopView(c), impl.FrontView(c)
-			if !slices.EqualFunc(gotTop, top, slices.Equal) {
-				t.Errorf("TopView(%s) = %d, want %d", shortText(c), gotTop, top)
+			var all [][][]int
+			for _, f := range tables {
+				got, again := f.run(c), f.run(c)
+				if !slices.EqualFunc(got, f.want, slices.Equal) || !slices.EqualFunc(again, f.want, slices.Equal) {
+					t.Errorf("%s(%s) = %d and %d, want %d", f.name, shortText(c), got, again, f.want)
+				}
+				all = append(all, got, again)
 			}
-			if !slices.EqualFunc(gotFront, front, slices.Equal) {
-				t.Errorf("FrontView(%s) = %d, want %d", shortText(c), gotFront, front)
+			checkApart(t, all...)
+			var lists [][]int
+			for _, got := range all {
+				lists = append(lists, got[:cap(got)]...)
+				clear(got[:cap(got)])
 			}
-			if got := impl.CountSteps(c); got != steps {
-				t.Errorf("CountSteps(%s) = %d, want %d", shortText(c), got, steps)
-			}
-			againTop, againFront := impl.TopView(c), impl.FrontView(c)
-			checkApart(t, gotTop, gotFront, againTop, againFront)
-			overwriteApart(t, slices.Concat(gotTop[:cap(gotTop)], gotFront[:cap(gotFront)], againTop[:cap(againTop)], againFront[:cap(againFront)]))
-			for _, view := range [][][]int{gotTop, gotFront, againTop, againFront} {
-				clear(view[:cap(view)])
-			}
+			overwriteApart(t, lists)
 		}
 	})
+}
+
+// checkViewsAre expects these views of a card and this number of steps between its strips.
+func checkViewsAre(t *testing.T, c impl.Card, top [][]int, front [][]int, steps int) {
+	t.Helper()
+	checkTables(t, c, table{"TopView", impl.TopView, top}, table{"FrontView", impl.FrontView, front})
+	checkSteps(t, c, steps)
 }
 
 func checkSteps(t *testing.T, c impl.Card, want int) {
@@ -233,14 +260,8 @@ func TestViewsOfAllShortWords(t *testing.T) {
 }
 
 func TestViewsOfStripsOfEveryFrame(t *testing.T) {
-	for _, frame := range allFrames() {
-		n := 1
-		if frame[0]+frame[1] > 10 {
-			n = 13
-		}
-		for _, s := range append(someStrips(frame[0], frame[1], n), nearlyHighStrips(frame[0], frame[1])...) {
-			checkSeen(t, s)
-		}
+	for _, s := range stripsOfEveryFrame() {
+		checkSeen(t, s)
 	}
 }
 
@@ -606,11 +627,7 @@ func TestStepsAreWhereTheAreasBetweenStripsAre(t *testing.T) {
 }
 
 func TestViewsOfInvalidCards(t *testing.T) {
-	cards := append(invalidCards(), cardsOutsideOfTheirFrames()...)
-	for n := maxStrips + 1; n <= maxStrips+3; n++ {
-		cards = append(cards, cardOf(1, 1, slices.Repeat([]string{"fd"}, n)...), mixedCard(2, 3, n))
-	}
-	for _, c := range cards {
+	for _, c := range allInvalidCards() {
 		checkNoViews(t, c)
 	}
 }
