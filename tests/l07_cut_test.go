@@ -347,6 +347,18 @@ func otherTexts() []string {
 	return []string{"", "d", "f", "dd", "ff", "x", "df ", " df", "dF", "Df", "d\nf", "dxf", "dfé", "\u0164f", "d\x00f", "dfx", "ddffx", long, long + "df", "fd" + long, long + long + "f", strings.Repeat("f", maxSteps+1) + "d", "d" + strings.Repeat("f", maxSteps+1), strings.Repeat("df", maxSteps+1), strings.Repeat("df", 100000)}
 }
 
+// textsWithOtherBytes returns short texts with each of the bytes that are no letters of a strip.
+func textsWithOtherBytes() []string {
+	var texts []string
+	for i := range 256 {
+		c := string([]byte{byte(i)})
+		if c != "d" && c != "f" {
+			texts = append(texts, c, c+"df", "d"+c+"f", "fd"+c, "f"+c+"d")
+		}
+	}
+	return texts
+}
+
 // pairsOfOtherTexts returns pairs of texts of which the first one, or both, are no strips.
 func pairsOfOtherTexts() [][2]string {
 	long := strings.Repeat("d", maxSteps)
